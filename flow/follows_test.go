@@ -169,7 +169,7 @@ func harm(g *rand.Rand, s api.State) api.State {
 	for range 1 + g.Intn(4) {
 		if len(s.Tokens) > 0 {
 			x := &s.Tokens[g.Intn(len(s.Tokens))]
-			switch g.Intn(6) {
+			switch g.Intn(8) {
 			case 0:
 				x.Scope = pick(g, s.Tokens...).Key
 			case 1:
@@ -183,6 +183,12 @@ func harm(g *rand.Rand, s api.State) api.State {
 			case 5:
 				y := api.Token{Key: s.Made + 1000 + uint64(g.Intn(50)), Inst: x.Inst, Scope: x.Scope, Node: x.Node, By: g.Intn(9)}
 				s.Tokens = append(s.Tokens, y)
+			case 6:
+				x.Key = pick(g, s.Tokens...).Key
+			case 7:
+				y := *x
+				y.Scope = pick(g, append(s.Tokens, y)...).Key
+				s.Tokens = slices.Insert(s.Tokens, g.Intn(len(s.Tokens)+1), y)
 			}
 		}
 		switch g.Intn(9) {

@@ -200,9 +200,12 @@ func (o *teller) takeOff(t api.Token) {
 		}
 	}
 	var keys []uint64
-	for key := range below {
-		if key != t.Key {
-			keys = append(keys, key)
+	itself := true // the first one of its key
+	for _, x := range o.s.Tokens {
+		if x.Key == t.Key && itself {
+			itself = false
+		} else if x.Inst == o.inst && below[x.Scope] {
+			keys = append(keys, x.Key)
 		}
 	}
 	sort.Slice(keys, func(a, b int) bool { return keys[a] > keys[b] })

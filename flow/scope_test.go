@@ -1,6 +1,7 @@
 package flow_test
 
 import (
+	"slices"
 	"testing"
 
 	"wherry/api"
@@ -78,6 +79,55 @@ func TestBelow(t *testing.T) {
 	)
 	w := begin(s, 0, 10, 105)
 	w.mustDo(t, "broken off", w.timer(2, 9), left(90), left(80), left(20), left(4), left(3), left(1), left(2), passed(1, 0, 9), entered(6, 1, 0, 10, 6), timer(6, 10, 110))
+}
+
+// P15.2: of a state in which tokens have one key, each token below leaves, one ELeft
+// for each; one that isn't below stays out, be its key that of another one that is, or
+// of the token that is taken off.
+func TestBelowOfOneKey(t *testing.T) {
+	four := api.Token{Key: 4, Inst: 1, Scope: 3, Node: 7, By: 4}
+	with := func(change func(x *api.Token)) api.Token {
+		x := four
+		change(&x)
+		return x
+	}
+	for what, x := range map[string]struct {
+		more []api.Token
+		left []uint64
+	}{
+		"once more":            {[]api.Token{four}, []uint64{4, 4, 3}},
+		"twice more":           {[]api.Token{four, four}, []uint64{4, 4, 4, 3}},
+		"in another scope":     {[]api.Token{with(func(x *api.Token) { x.Scope = 2 })}, []uint64{4, 4, 3}},
+		"at another node":      {[]api.Token{with(func(x *api.Token) { x.Node = 4 })}, []uint64{4, 4, 3}},
+		"not below":            {[]api.Token{with(func(x *api.Token) { x.Scope = 0 })}, []uint64{4, 3}},
+		"in no scope":          {[]api.Token{with(func(x *api.Token) { x.Scope = 77 })}, []uint64{4, 3}},
+		"of another instance":  {[]api.Token{with(func(x *api.Token) { x.Inst = 9 })}, []uint64{4, 3}},
+		"below two of one key": {[]api.Token{four, {Key: 90, Inst: 1, Scope: 4, Node: 7}}, []uint64{90, 4, 4, 3}},
+		"its own, below it":    {[]api.Token{{Key: 2, Inst: 1, Scope: 2, Node: 4}}, []uint64{4, 3, 2}},
+		"its own, far below":   {[]api.Token{{Key: 2, Inst: 1, Scope: 3, Node: 4}}, []uint64{4, 3, 2}},
+		"its own, not below":   {[]api.Token{{Key: 2, Inst: 1, Scope: 0, Node: 4}}, []uint64{4, 3}},
+		"all":                  {[]api.Token{four, {Key: 3, Inst: 1, Scope: 2, Node: 4}, {Key: 3, Inst: 1, Node: 4}}, []uint64{4, 4, 3, 3}},
+	} {
+		s := inside(t).State()
+		s.Tokens = append(s.Tokens, x.more...)
+		s.Tokens[0].Stuck = "x"
+		var off []api.Record
+		for _, key := range append(x.left, 2) {
+			off = append(off, left(key))
+		}
+		broken := func(node, by int64) []api.Record {
+			return append(slices.Clone(off), passed(1, 0, node), entered(6, 1, 0, 10, by), timer(6, 10, 110))
+		}
+		w := begin(s, 0, 10, 105)
+		w.mustDo(t, what+", by a timer", w.timer(2, 9), broken(9, 6)...)
+		w = begin(s, 0, 10, 105)
+		w.mustDo(t, what+", by a message", w.arrive(2, 11, 77), append([]api.Record{kept(2, 77, 11)}, broken(11, 8)...)...)
+		w = begin(s, 0, 10, 105)
+		k := text("k", "key")
+		w.mustDo(t, what+", resolved", w.resolve(2, k), append(append([]api.Record{setVars(1, k)}, off...),
+			entered(6, 1, 0, 1, 0), timer(6, 9, 110), sub(6, 1, 11, "go", "key"), passed(1, 6, 3),
+			entered(7, 1, 6, 4, 2), timer(7, 12, 110), passed(1, 7, 6), entered(8, 1, 7, 7, 4), job(9, 8))...)
+	}
 }
 
 // R1: scopes that go round, in a state that no command made, come to an end; each

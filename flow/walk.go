@@ -118,11 +118,14 @@ func (k *walk) goOn(t api.Token, node int) {
 	k.follow(node, t.Scope)
 }
 
-// below are the keys of the instance's tokens below one, falling.
+// below are the keys of the instance's tokens below one, falling: a key stands there
+// once for each token that has it, as in states that no command made several may.
 func (k *walk) below(token uint64) []uint64 {
+	tokens := k.w.state.Tokens
+	itself := slices.IndexFunc(tokens, func(t api.Token) bool { return t.Key == token })
 	within := map[uint64][]uint64{}
-	for _, t := range k.w.state.Tokens {
-		if t.Inst == k.inst && t.Key != token {
+	for i, t := range tokens {
+		if t.Inst == k.inst && i != itself {
 			within[t.Scope] = append(within[t.Scope], t.Key)
 		}
 	}
@@ -135,5 +138,5 @@ func (k *walk) below(token uint64) []uint64 {
 	}
 	keys = keys[1:]
 	slices.SortFunc(keys, func(a, b uint64) int { return cmp.Compare(b, a) })
-	return slices.Compact(keys)
+	return keys
 }
